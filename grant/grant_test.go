@@ -292,7 +292,7 @@ func TestProves(t *testing.T) {
 		{"the result of the exchange", list(1, 2, 0, 3), list(0, 1, 2), api.ErrProof},
 		{"the result of the exchange, and all", list(1, 2, 0, 3), list(0, 1, 2, 3), api.ErrProof},
 		{"no members", own(), nil, api.ErrEmpty},
-		{"no members of a result that is right", list(1, 2, 0, 3), list(), api.ErrEmpty},
+		{"no members of a result that is right", list(1, 2, 0, 3), []int{}, api.ErrEmpty},
 		{"members that descend", own(), list(1, 0), api.ErrOrder},
 		{"a member twice", own(), list(1, 1), api.ErrOrder},
 		{"the order before a later number that is no holder", own(), list(1, 1, 4), api.ErrOrder},

@@ -391,7 +391,7 @@ func TestAllArguments(t *testing.T) {
 		}
 	}
 	for _, wishes := range all {
-		if got, want := answers(wishes, nil, nil, nil), answers(wishes, list(), list(), list()); !slices.Equal(got, want) {
+		if got, want := answers(wishes, nil, nil, nil), answers(wishes, []int{}, []int{}, []int{}); !slices.Equal(got, want) {
 			t.Errorf("%v: %v with nil, %v with lists without elements", wishes, got, want)
 		}
 	}
